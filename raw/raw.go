@@ -5,6 +5,7 @@ import (
 	"strings"
 
 	"bedrock/api"
+	"bedrock/fault"
 )
 
 const (
@@ -54,7 +55,7 @@ func PutVar(v int) string {
 func GetVar(b string) (v, size int, e api.Errno) {
 	defer func() {
 		if r := recover(); r != nil {
-			v, size, e = 0, 0, told(r)
+			v, size, e = 0, 0, fault.Told(r)
 		}
 	}()
 	r := reader{b: b}

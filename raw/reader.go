@@ -9,16 +9,6 @@ type reader struct {
 	at int
 }
 
-// told is the Errno with which a step gave up. Nothing else is expected to be
-// recovered; if it is, bytes that nobody could read are no such thing.
-func told(r any) api.Errno {
-	e, ok := r.(api.Errno)
-	if !ok {
-		return api.ErrForm
-	}
-	return e
-}
-
 // next takes a byte; e is told where there is none.
 func (r *reader) next(e api.Errno) byte {
 	if r.at == len(r.b) {

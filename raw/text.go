@@ -5,6 +5,7 @@ import (
 	"strings"
 
 	"bedrock/api"
+	"bedrock/fault"
 )
 
 const maxDigits = 16 // of a number that Number takes: always an int
@@ -16,7 +17,7 @@ func Digits(v int) string { return strconv.Itoa(v) }
 func Number(s string) (v int, e api.Errno) {
 	defer func() {
 		if r := recover(); r != nil {
-			v, e = 0, told(r)
+			v, e = 0, fault.Told(r)
 		}
 	}()
 	if s == "0" {
@@ -67,7 +68,7 @@ func Quote(b string) string {
 func Unquote(s string) (b string, size int, e api.Errno) {
 	defer func() {
 		if r := recover(); r != nil {
-			b, size, e = "", 0, told(r)
+			b, size, e = "", 0, fault.Told(r)
 		}
 	}()
 	r := reader{b: s}
