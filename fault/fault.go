@@ -12,3 +12,14 @@ func Told(r any) api.Errno {
 	}
 	return e
 }
+
+// Tried does the steps of a call and tells with what one of them gave up.
+func Tried(steps func()) (e api.Errno) {
+	defer func() {
+		if r := recover(); r != nil {
+			e = Told(r)
+		}
+	}()
+	steps()
+	return api.OK
+}

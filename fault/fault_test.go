@@ -26,3 +26,21 @@ func TestTold(t *testing.T) {
 		}
 	}
 }
+
+func TestTried(t *testing.T) {
+	done := 0
+	if e := fault.Tried(func() { done++ }); e != api.OK || done != 1 {
+		t.Errorf("Tried of a step: %d, done %d times", e, done)
+	}
+	e := fault.Tried(func() {
+		done++
+		panic(api.ErrOver)
+	})
+	if e != api.ErrOver || done != 2 {
+		t.Errorf("Tried of a step that gives up: %d, done %d times", e, done)
+	}
+	var none []int
+	if e := fault.Tried(func() { none[done] = 0 }); e != api.ErrForm {
+		t.Errorf("Tried of a step that fails: %d", e)
+	}
+}
