@@ -77,9 +77,15 @@ func TestNames(t *testing.T) {
 	}
 	good = append(good, strings.Repeat("z", 64), "..", "/", "//", "../a", "log/00-1_x.sst")
 	for _, name := range good {
+		if !disk.IsName(name) {
+			t.Errorf("IsName(%q): false", name)
+		}
 		answers(t, strconv.Quote(name), names(with(t, "taken", ""), name), api.ErrNone, api.ErrNone, api.ErrNone, api.ErrNone, api.OK, api.OK, api.OK)
 	}
 	for _, bad := range []string{"", strings.Repeat("z", 65), strings.Repeat("a", 1000), "é", "a b", "a\x00"} {
+		if disk.IsName(bad) {
+			t.Errorf("IsName(%q): true", bad)
+		}
 		answers(t, strconv.Quote(bad), names(with(t, "taken", ""), bad), api.ErrName, api.ErrName, api.ErrName, api.ErrName, api.ErrName, api.ErrName, api.ErrName)
 	}
 }

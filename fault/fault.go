@@ -23,3 +23,10 @@ func Tried(steps func()) (e api.Errno) {
 	steps()
 	return api.OK
 }
+
+// Must gives up, if a step told an error.
+func Must(e api.Errno) {
+	if e != api.OK {
+		panic(e)
+	}
+}

@@ -44,3 +44,11 @@ func TestTried(t *testing.T) {
 		t.Errorf("Tried of a step that fails: %d", e)
 	}
 }
+
+func TestMust(t *testing.T) {
+	for _, e := range []api.Errno{api.OK, api.ErrArg, api.ErrFull, -1} {
+		if got := fault.Tried(func() { fault.Must(e) }); got != e {
+			t.Errorf("Must(%d) gives up with %d", e, got)
+		}
+	}
+}
