@@ -83,13 +83,3 @@ func (d *Disk) Read(name string) (string, api.Errno) {
 	})
 	return data, e
 }
-
-// Loose tells how many of a file's bytes are not synced.
-func (d *Disk) Loose(name string) (int, api.Errno) {
-	loose := 0
-	e := fault.Tried(func() {
-		d.ask(name)
-		loose = d.file(name).loose()
-	})
-	return loose, e
-}

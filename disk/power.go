@@ -30,7 +30,7 @@ func (d *Disk) Crash(cuts []int, flip int) {
 
 // tear cuts what is not synced, and tells how many bytes are gone.
 func (f *file) tear(keep, flip int) int {
-	loose := f.loose()
+	loose := len(f.data) - f.synced
 	kept := min(max(keep, 0), loose)
 	f.data = f.data[:f.synced+kept]
 	f.synced = len(f.data)

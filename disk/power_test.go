@@ -204,41 +204,6 @@ func TestFuseStays(t *testing.T) {
 	has(t, "fuses", d, "a", "1234")
 }
 
-// It tells what a crash that cuts all would take.
-func TestLoose(t *testing.T) {
-	d := with(t, "a", "12", "b", "", "c", "3")
-	loose := func(what string, want ...int) {
-		t.Helper()
-		for i, name := range []string{"a", "b", "c"} {
-			if n, e := d.Loose(name); n != want[i] || e != api.OK {
-				t.Errorf("%s: Loose(%s): %d, %d, not %d", what, name, n, e, want[i])
-			}
-		}
-	}
-	acts := d.Acts()
-	loose("nothing synced", 2, 0, 1)
-	if d.Acts() != acts {
-		t.Errorf("Loose is an act")
-	}
-	answers(t, "", calls{d.Sync("a"), d.Append("b", "45")}, api.OK, api.OK)
-	loose("a synced", 0, 2, 1)
-	answers(t, "", calls{d.Append("a", "678"), d.Rename("c", "b"), d.Create("c")}, api.OK, api.OK, api.OK)
-	loose("a goes on", 3, 1, 0)
-	d.Crash([]int{2}, 0)
-	for _, x := range []*disk.Disk{d, nil, {}} {
-		if n, e := x.Loose("a"); n != 0 || e != api.ErrOff {
-			t.Errorf("Loose without power: %d, %d", n, e)
-		}
-	}
-	d.Restore()
-	loose("all that is left is synced", 0, 0, 0)
-	for name, want := range map[string]api.Errno{"d": api.ErrNone, "A": api.ErrName, "": api.ErrName} {
-		if n, e := d.Loose(name); n != 0 || e != want {
-			t.Errorf("Loose(%q): %d, %d, not %d", name, n, e, want)
-		}
-	}
-}
-
 // P704
 func TestTwin(t *testing.T) {
 	d := torn(t, "123", "", "", "4")

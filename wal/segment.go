@@ -61,29 +61,10 @@ func (l *Log) read() {
 	}
 }
 
-// settle lets another segment come behind the last one, or leaves it torn if
-// there is no room to mend it.
+// settle mends the last segment, or leaves it torn if there is no room.
 func (l *Log) settle() {
-	switch {
-	case len(l.segments) == 0:
-	case l.torn():
-		if e := fault.Tried(l.mend); e != api.ErrFull {
-			fault.Must(e)
-		}
-	default:
-		l.secure()
-	}
-}
-
-// secure syncs what an earlier Log left in the last segment, if it was not:
-// the power has not failed since. Were it torn when there is another one behind
-// it, the log could not be read any more.
-func (l *Log) secure() {
-	file := l.file(l.last().number)
-	loose, e := l.d.Loose(file)
-	fault.Must(e)
-	if loose > 0 {
-		fault.Must(l.d.Sync(file))
+	if e := fault.Tried(l.mend); e != api.ErrFull {
+		fault.Must(e)
 	}
 }
 
