@@ -6,6 +6,7 @@ import (
 	"strings"
 
 	"bedrock/api"
+	"bedrock/atonce"
 	"bedrock/fault"
 )
 
@@ -74,18 +75,8 @@ func (l *Log) mend() {
 	if !l.torn() {
 		return
 	}
-	s, copied := l.last(), l.dir+ofMend
-	if e := l.d.Remove(copied); e != api.ErrNone {
-		fault.Must(e)
-	}
-	fault.Must(l.d.Create(copied))
-	e := l.d.Append(copied, layAll(s.records))
-	if e == api.ErrFull {
-		fault.Must(l.d.Remove(copied))
-	}
-	fault.Must(e)
-	fault.Must(l.d.Sync(copied))
-	fault.Must(l.d.Rename(copied, l.file(s.number)))
+	s := l.last()
+	fault.Must(atonce.Write(l.d, l.dir+ofMend, l.file(s.number), layAll(s.records)))
 	s.torn = false
 }
 
