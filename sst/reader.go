@@ -21,7 +21,7 @@ func read(b string) *Table {
 	must(!t.none())
 	t.filter = r.rest
 	for _, p := range t.l {
-		must(bloom.May(t.filter, head(p[0])))
+		must(bloom.May(t.filter, Head(p[0])))
 	}
 	return t
 }

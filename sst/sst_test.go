@@ -444,3 +444,15 @@ func TestOpenRefusesWhatNoTableHas(t *testing.T) {
 		refused(t, c.what, c.b)
 	}
 }
+
+// What merge asks as well: how a key begins, for the filter.
+func TestHead(t *testing.T) {
+	for _, c := range [][2]string{
+		{"", ""}, {"a", "a"}, {"a\x00", "a\x00"}, {"a\x01", "a\x01"}, {"\x01\x00", "\x01\x00"}, {"a\x00\x02\x01", "a\x00\x02\x01"},
+		{"\x00\x01", "\x00\x01"}, {"\x00\x01b", "\x00\x01"}, {"a\x00\x01b\x00\x01c", "a\x00\x01"}, {"a\x00\x00\x01\x01", "a\x00\x00\x01"},
+	} {
+		if h := sst.Head(c[0]); h != c[1] {
+			t.Errorf("%q: %q, not %q", c[0], h, c[1])
+		}
+	}
+}
