@@ -6,6 +6,7 @@ import (
 	"bedrock/api"
 	"bedrock/real"
 	"bedrock/stamp"
+	"bedrock/vec"
 )
 
 // Value tells what a key has behind some versions.
@@ -48,10 +49,8 @@ func later(v, w api.Version) bool {
 		return true
 	case stamp.Greater(t, w.Origin, w.Tx, s, v.Origin, v.Tx):
 		return false
-	case len(v.At) != len(w.At):
-		return len(v.At) < len(w.At)
 	}
-	return slices.Compare(v.At, w.At) < 0
+	return vec.Compare(v.At, w.At) < 0
 }
 
 // timeOf tells the time of any version, of one that can't be kept too.

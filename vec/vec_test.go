@@ -1,6 +1,7 @@
 package vec_test
 
 import (
+	"cmp"
 	"fmt"
 	"math"
 	"slices"
@@ -127,6 +128,21 @@ func TestOrder(t *testing.T) {
 		if same := vec.Same(c.a, c.b); same != c.same {
 			t.Errorf("Same(%v, %v): %t", c.a, c.b, same)
 		}
+	}
+}
+
+// How vectors follow each other where each has to come ahead of another one or behind it.
+func TestCompare(t *testing.T) {
+	l := []api.Vec{nil, {math.MinInt}, {-1}, {0}, {9}, {math.MaxInt}, {math.MinInt, math.MaxInt}, {0, 0}, {0, 1}, {1, 0}, {1, math.MaxInt}, {2, math.MinInt}, {0, 0, 0}, make(api.Vec, 9), make(api.Vec, 300)}
+	for i, a := range l {
+		for j, b := range l {
+			if got, want := vec.Compare(a, slices.Clone(b)), cmp.Compare(i, j); got != want {
+				t.Errorf("Compare(%.60v, %.60v): %d, not %d", fmt.Sprint(a), fmt.Sprint(b), got, want)
+			}
+		}
+	}
+	if got := vec.Compare(nil, api.Vec{}); got != 0 {
+		t.Errorf("Compare of none and an empty one: %d", got)
 	}
 }
 
